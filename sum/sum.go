@@ -3,6 +3,7 @@ package sum
 
 import (
 	"pointsman/api"
+	"pointsman/octet"
 )
 
 // Add gives the partial sum with b's words added, as a number of 16 bits.
@@ -36,12 +37,8 @@ func Turn(sum, was, now uint16) uint16 {
 
 // Pseudo gives the partial sum of the twelve bytes that stand ahead of a segment.
 func Pseudo(from, to api.Addr, kind byte, n int) uint32 {
-	b := []byte{
-		byte(from >> 24), byte(from >> 16), byte(from >> 8), byte(from),
-		byte(to >> 24), byte(to >> 16), byte(to >> 8), byte(to),
-		0, kind, byte(n >> 8), byte(n),
-	}
-	return Add(0, b)
+	b := octet.AddLong(octet.AddLong(nil, uint32(from)), uint32(to))
+	return Add(0, octet.AddWord(append(b, 0, kind), n))
 }
 
 // wordAt is the word that begins at i; a last byte alone has a 0 behind it.
