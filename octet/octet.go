@@ -5,6 +5,9 @@ import "strconv"
 
 const parts = 4
 
+// digits are those to the base 16, the small ones.
+var digits = [16]byte{'0', '1', '2', '3', '4', '5', '6', '7', '8', '9', 'a', 'b', 'c', 'd', 'e', 'f'}
+
 // Word is the number of two bytes at i.
 func Word(b []byte, i int) int { return int(b[i])<<8 | int(b[i+1]) }
 
@@ -69,4 +72,24 @@ func Digits(s string, most int) (int, int) {
 		return 0, 0
 	}
 	return value, n
+}
+
+// AddHex puts a byte's two small digits to the base 16 behind others.
+func AddHex(b []byte, x byte) []byte { return append(b, digits[x>>4], digits[x&15]) }
+
+// Hex reads the byte that two small digits to the base 16 at i are.
+func Hex(s string, i int) (byte, bool) {
+	high, ok := digit(s[i])
+	low, also := digit(s[i+1])
+	return high<<4 | low, ok && also
+}
+
+// digit is the value of a small digit.
+func digit(c byte) (byte, bool) {
+	for value, d := range digits {
+		if c == d {
+			return byte(value), true
+		}
+	}
+	return 0, false
 }

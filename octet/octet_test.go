@@ -35,3 +35,17 @@ func TestTexts(t *testing.T) {
 		}
 	}
 }
+
+func TestHex(t *testing.T) {
+	for x := range 256 {
+		b := AddHex([]byte{'g'}, byte(x))
+		if got, ok := Hex(string(b), 1); got != byte(x) || !ok || len(b) != 3 {
+			t.Errorf("%s: %x", b, got)
+		}
+	}
+	for _, s := range []string{"0A", "g0", "0 ", "0`"} {
+		if _, ok := Hex(s, 0); ok {
+			t.Errorf("%q is read", s)
+		}
+	}
+}
