@@ -5,7 +5,7 @@ import (
 	"strings"
 
 	"pointsman/api"
-	"pointsman/ip"
+	"pointsman/octet"
 	"pointsman/upd"
 )
 
@@ -20,14 +20,14 @@ func Print(s api.Setup) (string, api.Errno) {
 		return "", api.ErrArg
 	}
 	var w printer
-	w.add("system", number(int(s.AS)), endItem, "router", ip.Text(s.Router), endItem, "hold", number(s.Hold), endItem, "retry", number(s.Retry), endItem)
+	w.add("system", number(int(s.AS)), endItem, "router", octet.Text(uint32(s.Router)), endItem, "hold", number(s.Hold), endItem, "retry", number(s.Retry), endItem)
 	w.some(s.Graceful != 0, "graceful", number(s.Graceful), endItem)
 	for _, p := range s.Policies {
 		w.add("policy", p.Name)
 		w.block(p.L)
 	}
 	for _, p := range s.Peers {
-		w.add("peer", p.Name, ip.Text(p.Addr), "as", number(int(p.AS)))
+		w.add("peer", p.Name, octet.Text(uint32(p.Addr)), "as", number(int(p.AS)))
 		w.some(p.Waits, "waits")
 		w.some(p.Max != 0, "max", number(p.Max))
 		w.some(p.In != "", wordIn, p.In)
